@@ -192,7 +192,13 @@ func randomDomains(g impl.Grid, source *rand.Rand) [][]string {
 
 // domainGrids are grids on which domains are pruned: of many kinds, and some of the right form.
 func domainGrids(count int, seed int64) []impl.Grid {
-	return slices.Concat(gridsUpTo(6), gridsWithOneCell(), fineGrids(), randomGrids(count, seed))
+	grids := slices.Concat(gridsUpTo(6), randomGrids(count, seed))
+	for i, g := range slices.Concat(gridsWithOneCell(), fineGrids()) {
+		if i%5 == 0 {
+			grids = append(grids, g)
+		}
+	}
+	return grids
 }
 
 func checkDomainsOf(t *testing.T, g impl.Grid, fill string, words []string, want [][]string) {
